@@ -4,6 +4,7 @@ import (
 	"maps"
 	"slices"
 
+	"chattel/asks"
 	"chattel/types"
 	"chattel/vary"
 )
@@ -50,37 +51,11 @@ func fieldNeeds(s Struct, found types.Needs) [][2]int {
 		all[p] = struct{}{}
 	}
 	for _, f := range s.Fields {
-		asked(f.Type, found, func(p [2]int) {
+		asks.Each(f.Type, found, func(p [2]int) {
 			if long := p[0]; long != 0 && p != [2]int{long, long} {
 				all[p] = struct{}{}
 			}
 		})
 	}
 	return slices.SortedFunc(maps.Keys(all), func(p, q [2]int) int { return slices.Compare(p[:], q[:]) })
-}
-
-// asked lets tell have each pair that layer 7's Wf says of a type, and answers the regions in it, rising, each once. It asks of one part at a time, with no more in it than regions: all of a deep type's pairs would be as many as the square of its depth, though few of them are unlike.
-func asked(t types.Type, found types.Needs, tell func([2]int)) []int {
-	parts := t.Args
-	t.Args = nil
-	in := types.All(t)
-	for _, a := range parts {
-		l := asked(a, found, tell)
-		t.Args = append(t.Args, holding(l))
-		in = append(in, l...)
-	}
-	for _, p := range types.Wf(t, found) {
-		tell(p)
-	}
-	slices.Sort(in)
-	return slices.Compact(in)
-}
-
-// holding: a type that has these regions in it, and asks for nothing.
-func holding(l []int) types.Type {
-	t := types.Type{Kind: types.Box}
-	for _, r := range l {
-		t.Args = append(t.Args, types.Type{Kind: types.Dyn, Region: r})
-	}
-	return t
 }
