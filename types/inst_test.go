@@ -201,3 +201,20 @@ func small(deep int) []T {
 	}
 	return l
 }
+
+// P7.1: a type that doubles at each of many steps is put in without copies of all that is in it.
+func TestInstDoubles(t *testing.T) {
+	x := ref(7, integer)
+	for range 100 {
+		x = types.Inst(str("Q", []int{1}, param("T", 2), param("T", 3)), []int{8}, []string{"T"}, []T{x})
+	}
+	for n := 100; n > 0; n-- {
+		if x.Name != "Q" || !slices.Equal(x.Regions, []int{8}) || len(x.Args) != 2 {
+			t.Fatal(n, x.Name, x.Regions, len(x.Args))
+		}
+		x = x.Args[n%2]
+	}
+	if !types.Equal(x, ref(7, integer)) {
+		t.Errorf("%+v", x)
+	}
+}
