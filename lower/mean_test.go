@@ -125,6 +125,32 @@ func TestEnds(t *testing.T) {
 	}
 }
 
+// P18.1: functions of any types and lifetimes, closures in them and in methods, what they caught of self.
+func TestPrograms(t *testing.T) {
+	for _, c := range []struct {
+		text string
+		want int64
+	}{
+		{"fn g < T > ( x : T , y : & T ) -> int where T : Show { let c = as Call | a | { return y . show ( ) + x . show ( ) + a ; } ; return c . call ( 1 ) ; } fn main ( ) -> int { return g ( 3 , & 4 ) + g ( two ( 1 , 2 ) , & two ( 3 , 4 ) ) ; }", 55},
+		{"struct C { n : int } impl Mut for C { fn set ( & mut self , a : int ) -> int { let c = as Mut | b | { self . n = self . n + b ; return self . n ; } ; c . set ( a ) ; return c . set ( a ) ; } } fn main ( ) -> int { let c = new C { n : 1 } ; c . set ( 2 ) ; return c . n ; }", 5},
+		{"struct C { b : Box < int > } impl Once for C { fn once ( self , a : int ) -> int { let c = as Once | b | { let s = self ; return * s . b + b ; } ; return c . once ( a ) ; } } fn main ( ) -> int { return new C { b : Box ( 4 ) } . once ( 2 ) ; }", 6},
+		{"fn fold < F > ( f : F , n : int ) -> int where F : Mut { let i = 0 ; let last = 0 ; while i < n { last = f . set ( i ) ; i = i + 1 ; } return last ; } fn main ( ) -> int { let sum = 0 ; let r = fold ( as Mut | a | { sum = sum + a ; return sum ; } , 5 ) ; return r * 100 + sum ; }", 1010},
+		{"fn fib ( n : int ) -> int { if n < 2 { return n ; } return fib ( n - 1 ) + fib ( n - 2 ) ; } fn main ( ) -> int { return fib ( 12 ) ; }", 144},
+		{"struct L { v : int , next : Box < dyn Show > } impl Show for L { fn show ( & self ) -> int { return self . v + self . next . show ( ) ; } } fn main ( ) -> int { let l : Box < dyn Show > = Box ( 0 ) ; let i = 1 ; while i < 5 { l = Box ( new L { v : i , next : l } ) ; i = i + 1 ; } return l . show ( ) ; }", 10},
+		{"fn apply ( f : Box < dyn Call > , n : int ) -> int { return f . call ( f . call ( n ) ) ; } fn main ( ) -> int { let x = 3 ; let f = as Call | a | { return a * x ; } ; let r = & f ; return r . call ( 1 ) + apply ( Box ( f ) , 2 ) ; }", 21},
+		{"fn last < 'a , T > ( p : & 'a P < T > ) -> & 'a T { return & p . b ; } fn main ( ) -> int { let p = two ( Box ( 1 ) , Box ( 2 ) ) ; return * * last ( & p ) + last ( & p ) . show ( ) ; }", 4},
+		{"fn main ( ) -> int { let n = 1 ; let c = as Mut | a | { let d = as Mut | b | { let e = as Mut | c | { n = n * 10 + c ; return n ; } ; e . set ( b ) ; return e . set ( b + 1 ) ; } ; return d . set ( a ) ; } ; return c . set ( 2 ) ; }", 123},
+		{"fn main ( ) -> int { let p = two ( 1 , 2 ) ; let c = as Mut | a | { p . a = p . b ; p = two ( a , p . a ) ; return p . show ( ) ; } ; return c . set ( 4 ) * 100 + c . set ( 5 ) ; }", 4252},
+	} {
+		l := all(t, lib+c.text)
+		for _, watch := range []bool{true, false} {
+			if r := run(t, l, l[0].env, watch); r.why != "" || int64(r.value.N) != c.want {
+				t.Errorf("%s: %+v, want %d", c.text, r, c.want)
+			}
+		}
+	}
+}
+
 // P18.1: the chapter's example.
 func TestExample(t *testing.T) {
 	w := read(t, "fn f ( x : int ) -> int { return x + 1 ; }")
